@@ -93,14 +93,15 @@ func (c *coder) other(at int, in *api.Instr) {
 	fail(api.ErrForm, at)
 }
 
-// blockType reads the type of a block. What is neither a byte of its own nor a value's type is a number, read from the same byte on.
+// blockType reads the type of a block. A byte that says what type a value has is read as everywhere, also one that is left out; what is none, and not empty, is a number, read from the same byte on.
 func (c *coder) blockType() api.Sig {
 	at := c.at
-	switch first := c.octet(); first {
+	switch c.octet() {
 	case byteEmpty:
 		return api.Sig{}
-	case api.I32, api.I64:
-		return api.Sig{Out: []int{first}}
+	case api.I32, api.I64, byteF32, byteF64:
+		c.at = at
+		return api.Sig{Out: []int{c.kind()}}
 	}
 	c.at = at
 	n := c.s(64)

@@ -348,6 +348,26 @@ func TestP41Blocks(t *testing.T) {
 	faults(t, "a block of a type where there are none", none, api.ErrIndex, len(none)-3)
 }
 
+// A byte of floats is a type that is left out, in a block as anywhere. With a mark, or behind one, it belongs to a number; so do the bytes beside it.
+func TestP41BlocksOfFloats(t *testing.T) {
+	for _, op := range []string{"02", "03", "04"} {
+		for _, text := range []string{"7d", "7c"} {
+			for _, behind := range []string{" 0b 0b", "", " 41 05 0b 0b", " 00", " ff", " 11 0b"} {
+				bodyFaults(t, api.ErrFloat, op+" !"+text+behind)
+				bodyFaults(t, api.ErrFloat, "01 02 40 "+op+" !"+text+behind)
+				bodyFaults(t, api.ErrFloat, "04 40 05 "+op+" !"+text+behind)
+			}
+			bodyFaults(t, api.ErrFloat, repeat("01", 511)+op+" !"+text+" 0b 0b")
+			bodyFaults(t, api.ErrFloat, repeat("02 40", 15)+op+" !"+text+" "+repeat("0b", 17))
+			bodyFaults(t, api.ErrIndex, op+" !f"+text[1:]+" 7f 0b 0b")
+			bodyFaults(t, api.ErrIndex, op+" !83 "+text+" 0b 0b")
+		}
+		for _, text := range []string{"!7b", "!7a", "!79", "!70", "!6f", "!60"} {
+			bodyFaults(t, api.ErrIndex, op+" "+text+" 0b 0b")
+		}
+	}
+}
+
 func TestP41Else(t *testing.T) {
 	type list = []api.Instr
 	bodyDecodes(t, "04 40 05 0b", api.Instr{Op: 4, HasElse: true})

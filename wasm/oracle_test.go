@@ -393,17 +393,17 @@ func (k *look) operator(c, at int) api.Instr {
 }
 
 func (k *look) blockType() api.Sig {
-	if k.at < k.end && within(int(k.b[k.at]), "40 7f 7e 7d 7c") {
+	at := k.at
+	if at < k.end && within(int(k.b[at]), "40 7f 7e 7d 7c") {
 		switch c := k.next(); c {
 		case 0x40:
 			return api.Sig{}
 		case 0x7f, 0x7e:
 			return api.Sig{Out: []int{c}}
-		default:
-			k.unclear = k.unclear || !k.failed()
 		}
+		k.fail(api.ErrFloat, at)
+		return api.Sig{}
 	}
-	at := k.at
 	n := k.s(64)
 	if k.failed() || n < 0 || n >= int64(len(k.m.Types)) {
 		k.fail(api.ErrIndex, at)
